@@ -36,6 +36,15 @@ func (c *cache) Get(block int) ([]uint64, api.Errno) {
 	return slices.Clone(l.words), api.OK
 }
 
+// look answers what Get would, but lets a block that is not there not be there.
+func (c *cache) look(block int) []uint64 {
+	if words := c.lines[block].words; words != nil {
+		return slices.Clone(words)
+	}
+	words, _ := c.below.Get(block)
+	return words
+}
+
 // Put lets the block be there with these words, which are not given to what lies below till sync.
 func (c *cache) Put(block int, words []uint64) api.Errno {
 	if len(words) != api.BlockWords {
